@@ -1,0 +1,1 @@
+"""A line in each direction."""
