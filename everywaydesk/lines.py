@@ -24,6 +24,24 @@ def line(p, n, x, v):
     return [p] + points_of_line(p, n, x, v)
 
 
+def has(p, n, v, s):
+    """Answer 1 if the set s has all of some line in direction v, else 0."""
+    if not is_space(p, n) or not is_set(p, n, s):
+        return [WRONG_FORM]
+    if not is_direction(p, n, v):
+        return [NOT_THERE]
+    return [1 if has_line(p, n, v, members_of_set(s)) else 0]
+
+
+def lacks(p, n, s):
+    """Answer in how many directions the set s has no line, then these, rising."""
+    if not is_space(p, n) or not is_set(p, n, s):
+        return [WRONG_FORM]
+    members = members_of_set(s)
+    found = [v for v in all_directions(p, n) if not has_line(p, n, v, members)]
+    return [len(found)] + found
+
+
 def is_space(p, n):
     return p in PRIMES and 1 <= n <= MOST_NUMBERS
 
@@ -57,6 +75,25 @@ def point_of_numbers(p, numbers):
     return point
 
 
+def is_set(p, n, s):
+    """Tell whether s is a row of points' numbers, rising."""
+    count = count_points(p, n)
+    last = -1
+    for point in s:
+        if not last < point < count:
+            return False
+        last = point
+    return True
+
+
+def members_of_set(s):
+    # Asked for each point of many lines: a dict finds one without a walk through s.
+    members = {}
+    for point in s:
+        members[point] = True
+    return members
+
+
 def is_direction(p, n, v):
     # Beyond the last point the lower numbers alone could look like a direction.
     if not is_point(p, n, v):
@@ -79,3 +116,11 @@ def points_of_line(p, n, x, v):
         numbers = [(start[place] + times * way[place]) % p for place in range(n)]
         points.append(point_of_numbers(p, numbers))
     return points
+
+
+def has_line(p, n, v, members):
+    # A line that lies in the set begins in it too, so other points needn't be tried.
+    for x in members:
+        if all([point in members for point in points_of_line(p, n, x, v)]):
+            return True
+    return False
