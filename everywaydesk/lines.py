@@ -6,6 +6,7 @@ MOST_TIMES = 12
 
 WRONG_FORM = -22
 NOT_THERE = -2
+NOT_REACHED = -28
 NONE_TOLD = -33
 
 
@@ -64,6 +65,23 @@ def top(p, n, f):
     for term in highest:
         answer.extend(term)
     return answer
+
+
+def fewest(p, n):
+    """Answer how many points the least sets have that have a line in each direction."""
+    if not is_space(p, n):
+        return [WRONG_FORM]
+    if (n == 2 and p == 7) or (n == 3 and p != 2):
+        return [NOT_REACHED]
+    # A least set is one line in each direction: any point beside these could be left out.
+    return [min([count_of_bits(bits) for bits in sets_of_lines(p, n)])]
+
+
+def bound(p, n):
+    """Answer how many terms have each unknown less than p times and a degree of p - 1 at most."""
+    if not is_space(p, n):
+        return [WRONG_FORM]
+    return [len(low_terms(p, n))]
 
 
 def is_space(p, n):
@@ -258,3 +276,41 @@ def first_direction_not_0(p, n, highest):
     # direction, then, being of one degree, at its multiples too.
     ways = all_directions(p, n)
     return [v for v in ways if value_of_terms(p, highest, numbers_of_point(p, n, v)) != 0][0]
+
+
+def sets_of_lines(p, n):
+    """Give the sets that one line in each direction makes up, as bits, one for each point."""
+    ways = all_directions(p, n)
+    # Where a set is moved its lines go along, so one line of the first direction will do.
+    sets = [bits_of_points(points_of_line(p, n, 0, ways[0]))]
+    for v in ways[1:]:
+        sets = each_with_each(sets, lines_as_bits(p, n, v))
+    return sets
+
+
+def each_with_each(sets, others):
+    both = []
+    for bits in sets:
+        both.extend([bits | more for more in others])
+    return both
+
+
+def lines_as_bits(p, n, v):
+    """Give the lines in direction v, as bits, each line once."""
+    found = {}
+    for x in range(count_points(p, n)):
+        found[bits_of_points(points_of_line(p, n, x, v))] = True
+    return list(found)
+
+
+def bits_of_points(points):
+    return sum([1 << point for point in points])
+
+
+def count_of_bits(bits):
+    count = 0
+    rest = bits
+    while rest > 0:
+        count = count + rest % 2
+        rest = rest // 2
+    return count

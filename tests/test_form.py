@@ -35,8 +35,6 @@ def bound_names(found):
             names.add(node.arg)
         elif isinstance(node, ast.Name) and isinstance(node.ctx, ast.Store):
             names.add(node.id)
-        elif isinstance(node, ast.ImportFrom):
-            names.update(alias.asname or alias.name for alias in node.names)
     return names
 
 
@@ -45,14 +43,43 @@ class Form(unittest.TestCase):
         self.assertIn(PACKAGE / "__init__.py", FILES)
         self.assertIn(PACKAGE / "lines.py", FILES)
 
-    def test_imports_from_the_package_alone(self):
+    def test_imports_nothing(self):
         for path in FILES:
             for node in nodes(path):
                 with self.subTest(path=path.name):
-                    self.assertNotIsInstance(node, ast.Import)
-                    if isinstance(node, ast.ImportFrom):
-                        self.assertEqual(node.level, 0)
-                        self.assertEqual(node.module.split(".")[0], "everywaydesk")
+                    self.assertNotIsInstance(node, (ast.Import, ast.ImportFrom))
+
+    def test_at_the_top_plain_values_and_functions_alone(self):
+        for path in FILES:
+            names = []
+            with self.subTest(path=path.name):
+                for node in ast.parse(path.read_text(encoding="utf-8")).body:
+                    if isinstance(node, ast.FunctionDef):
+                        names.append(node.name)
+                    elif isinstance(node, ast.Assign):
+                        # What can't be changed can't keep anything from one time to the next.
+                        self.assertIsInstance(ast.literal_eval(node.value), (int, tuple))
+                        names.extend(target.id for target in node.targets)
+                    else:
+                        self.assertIsInstance(node, ast.Expr)
+                        self.assertIsInstance(node.value.value, str)
+                self.assertEqual(sorted(set(names)), sorted(names))
+
+    def test_methods(self):
+        for path in FILES:
+            for node in nodes(path):
+                with self.subTest(path=path.name):
+                    if isinstance(node, ast.Attribute):
+                        self.assertIn(node.attr, ("append", "extend"))
+
+    def test_comprehensions_and_powers(self):
+        for path in FILES:
+            for node in nodes(path):
+                with self.subTest(path=path.name):
+                    if isinstance(node, ast.ListComp):
+                        self.assertEqual(len(node.generators), 1)
+                        self.assertLessEqual(len(node.generators[0].ifs), 1)
+                    self.assertNotIsInstance(node, (ast.Pow, ast.Is, ast.IsNot, ast.Lambda))
 
     def test_names_are_bound_or_listed(self):
         for path in FILES:
